@@ -27,6 +27,12 @@ func told(results ...any) string {
 			for _, y := range x {
 				texts[i] += told(y) + ","
 			}
+		case impl.Grain:
+			texts[i] = told(x.At, x.Speed, x.Radius, x.Mass, x.Turn, x.Spin, x.Held)
+		case impl.Heap:
+			for _, g := range x.Grains {
+				texts[i] += told(g) + "\n"
+			}
 		default:
 			texts[i] = fmt.Sprint(x)
 		}
