@@ -119,6 +119,9 @@ func isTooFar(x, side float32) bool {
 }
 
 func referencePairsByCells(h impl.Heap, near, side float32) ([][]int64, bool) {
+	if !isFinite(near, side) || near < 0 || side <= 0 {
+		return nil, false
+	}
 	for _, g := range h.Grains {
 		if add32(near, mul32(2, g.Radius)) > side || isTooFar(real(g.At), side) || isTooFar(imag(g.At), side) {
 			return nil, false
