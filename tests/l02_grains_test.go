@@ -186,6 +186,7 @@ func TestRowOfGrainsHasFinitePlaces(t *testing.T) {
 	fails(t, "RowOfGrains that is too wide")(impl.RowOfGrains(2, 2e38, 0, 1))
 	fails(t, "RowOfGrains of a grain that is too wide")(impl.RowOfGrains(1, 2e38, 0, 1))
 	fails(t, "RowOfGrains with a gap that is too wide")(impl.RowOfGrains(2, 1e38, 3e38, 1))
+	fails(t, "RowOfGrains with two radii that are too wide")(impl.RowOfGrains(2, 2e38, -3e38, 1))
 	row := heap(t, "RowOfGrains")(impl.RowOfGrains(3, 1e38, -5e37, 1))
 	checkComplex(t, "the last place", row.Grains[2].At, complex(mul32(2, add32(2e38, -5e37)), 0))
 	fails(t, "RowOfGrains that is too long")(impl.RowOfGrains(4, 1e38, -5e37, 1))

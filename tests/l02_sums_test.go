@@ -134,6 +134,8 @@ func TestSumsAreFinite(t *testing.T) {
 	fails(t, "MomentumOf")(impl.MomentumOf(fast))
 	fails(t, "EnergyOfHeap")(impl.EnergyOfHeap(fast, 0))
 	gives(t, "TurningOf", float32(0))(impl.TurningOf(fast))
+	half := heapWith(impl.Grain{Speed: 1e19, Radius: 1, Mass: 4})
+	gives(t, "EnergyOfHeap, half of what is too large", mul32(2, long32(1e19), 1e19))(impl.EnergyOfHeap(half, 0))
 	far := heapWith(impl.Grain{At: 1e30, Radius: 1, Mass: 1e10})
 	fails(t, "CentreOfHeap")(impl.CentreOfHeap(far))
 	fails(t, "EnergyOfHeap")(impl.EnergyOfHeap(far, 1))
